@@ -64,6 +64,23 @@ func unknown(i int) Form {
 	return f
 }
 
+// Exponents returns, for each of the units, the sum of its exponents in a list: the dimension of a number that has these.
+func Exponents(units []string, list []api.Unit) []int {
+	sums := make([]int, len(units))
+	for _, unit := range list {
+		sums[slices.Index(units, unit.Name)] += unit.Exp
+	}
+	return sums
+}
+
+// Number returns the form of the number n with an exponent for each unit: that of a 0 without any is a free choice.
+func (s *System) Number(n int, exponents []int) Form {
+	if n == 0 && all(exponents, isZero) {
+		return s.Choice()
+	}
+	return s.Constant(exponents)
+}
+
 // Constant returns the form that has an exponent for each unit.
 func (s *System) Constant(exponents []int) Form {
 	var f Form
@@ -177,6 +194,8 @@ func all[T any](list []T, holds func(T) bool) bool {
 	return !slices.ContainsFunc(list, func(x T) bool { return !holds(x) })
 }
 
+func isZero(n int) bool { return n == 0 }
+
 func (s *System) coefficients(equations []Form) [][]int {
 	var rows [][]int
 	for _, e := range equations {
@@ -195,7 +214,7 @@ func (s *System) rows(kernel [][]int, result Form) ([][]int, int) {
 	step := 0
 	for _, x := range kernel {
 		value := dot(result.coefs, x)
-		if all(x[:s.params], func(n int) bool { return n == 0 }) {
+		if all(x[:s.params], isZero) {
 			step = gcd(step, value)
 			continue
 		}

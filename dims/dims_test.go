@@ -80,3 +80,29 @@ func TestErrors(t *testing.T) {
 		}
 	}
 }
+
+// P7.3: the dimension of a number, and what a free 0 is.
+func TestNumbers(t *testing.T) {
+	list := []api.Unit{{Name: "s", Exp: 2}, {Name: "m", Exp: 1}, {Name: "s", Exp: -3}}
+	for want, got := range map[string][]int{
+		"[1 -1]":  dims.Exponents([]string{"m", "s"}, list),
+		"[0 1 0]": dims.Exponents([]string{"a", "m", "b"}, list[1:2]),
+		"[0 0]":   dims.Exponents([]string{"m", "s"}, nil),
+		"[]":      dims.Exponents(nil, nil),
+	} {
+		if fmt.Sprint(got) != want {
+			t.Error(got, want)
+		}
+	}
+	number := func(n int, exponents ...int) string {
+		return typeOf(0, len(exponents), func(s *dims.System) dims.Form { return s.Number(n, exponents) })
+	}
+	for want, got := range map[string]string{
+		"0 [[1]] []": number(0), "0 [[1]] [[0] [0]]": number(0, 0, 0), "0 [] [[0] [1]]": number(0, 0, 1), "0 [] []": number(1),
+		"0 [] [[0]]": number(1, 0), "0 [] [[3]]": number(0, 3),
+	} {
+		if got != want {
+			t.Error(got, want)
+		}
+	}
+}

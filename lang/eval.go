@@ -4,16 +4,9 @@ import (
 	"slices"
 
 	"tinplate/api"
+	"tinplate/dims"
 	"tinplate/ratio"
 )
-
-func areRatios(list []api.Ratio) bool {
-	return !slices.ContainsFunc(list, func(r api.Ratio) bool { return !ratio.Valid(r) })
-}
-
-func areSizes(list []api.Ratio) bool {
-	return areRatios(list) && !slices.ContainsFunc(list, func(r api.Ratio) bool { return r.Num <= 0 })
-}
 
 // An evaluation counts its steps.
 type evaluation struct {
@@ -46,7 +39,7 @@ func (v *evaluation) value(e api.Expr, f frame) (api.Ratio, api.Errno) {
 	}
 	switch e.Kind {
 	case api.ExprNum:
-		return v.scales.Measure(e.N, exponents(v.source.Units, e.Units))
+		return v.scales.Measure(e.N, dims.Exponents(v.source.Units, e.Units))
 	case api.ExprVar:
 		return f.args[slices.Index(f.params, e.Name)], api.OK
 	case api.ExprCall:

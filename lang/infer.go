@@ -29,7 +29,7 @@ func (i *inference) form(e api.Expr) dims.Form {
 	}
 	switch e.Kind {
 	case api.ExprNum:
-		return i.number(e)
+		return i.Number(e.N, dims.Exponents(i.source.Units, e.Units))
 	case api.ExprVar:
 		return i.Param(slices.Index(i.params, e.Name))
 	case api.ExprCall:
@@ -50,21 +50,4 @@ func (i *inference) form(e api.Expr) dims.Form {
 		i.Equate(parts[2], parts[3])
 		return parts[2]
 	}
-}
-
-func (i *inference) number(e api.Expr) dims.Form {
-	sums := exponents(i.source.Units, e.Units)
-	if e.N == 0 && pivotOf(sums) == len(sums) {
-		return i.Choice()
-	}
-	return i.Constant(sums)
-}
-
-// exponents returns, for each of the units, the sum of its exponents in a list.
-func exponents(units []string, list []api.Unit) []int {
-	sums := make([]int, len(units))
-	for _, unit := range list {
-		sums[slices.Index(units, unit.Name)] += unit.Exp
-	}
-	return sums
 }

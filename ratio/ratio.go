@@ -3,6 +3,7 @@
 package ratio
 
 import (
+	"slices"
 	"sort"
 
 	"tinplate/api"
@@ -11,6 +12,11 @@ import (
 // Valid reports whether r is in lowest terms and within the limits.
 func Valid(r api.Ratio) bool {
 	return fits(r) && gcd(r.Num, r.Den) == 1
+}
+
+// AreValid reports whether all of a list are valid.
+func AreValid(list []api.Ratio) bool {
+	return !slices.ContainsFunc(list, func(r api.Ratio) bool { return !Valid(r) })
 }
 
 func fits(r api.Ratio) bool {

@@ -139,3 +139,23 @@ func TestMeasure(t *testing.T) {
 		}
 	}
 }
+
+// P7.7
+func TestLists(t *testing.T) {
+	half, zero, bad := api.Ratio{Num: 1, Den: 2}, api.Ratio{Num: 0, Den: 1}, api.Ratio{Num: 2, Den: 4}
+	for _, c := range []struct {
+		list         []api.Ratio
+		valid, sizes bool
+	}{
+		{nil, true, true},
+		{[]api.Ratio{half, half}, true, true},
+		{[]api.Ratio{half, zero}, true, false},
+		{[]api.Ratio{{Num: -1, Den: 2}, half}, true, false},
+		{[]api.Ratio{half, bad}, false, false},
+		{[]api.Ratio{bad, half}, false, false},
+	} {
+		if ratio.AreValid(c.list) != c.valid || ratio.AreSizes(c.list) != c.sizes {
+			t.Error(c)
+		}
+	}
+}

@@ -13,6 +13,11 @@ type Scales struct {
 	powers [][]int // the exponent of each base, for each scale
 }
 
+// AreSizes reports whether scales can be made of a list: whether all numbers are valid, and above 0.
+func AreSizes(list []api.Ratio) bool {
+	return AreValid(list) && !slices.ContainsFunc(list, func(r api.Ratio) bool { return r.Num <= 0 })
+}
+
 // NewScales makes scales of valid numbers above 0.
 func NewScales(sizes []api.Ratio) Scales {
 	var s Scales
